@@ -24,7 +24,7 @@ const (
 )
 
 func Put16(b []byte, n int) []byte {
-	if n < 0 || n > max16 {
+	if !upTo(n, max16) {
 		return copyBytes(b)
 	}
 	return append(copyBytes(b), byte(n>>shift8), byte(n))
@@ -38,7 +38,7 @@ func Get16(b []byte, at int) (int, int) {
 }
 
 func Put32(b []byte, n int) []byte {
-	if n < 0 || n > max32 {
+	if !upTo(n, max32) {
 		return copyBytes(b)
 	}
 	return append(copyBytes(b), byte(n>>shift24), byte(n>>shift16), byte(n>>shift8), byte(n))
@@ -73,7 +73,7 @@ func Lower(b []byte) []byte {
 }
 
 func Dotted(n int) []byte {
-	if n < 0 || n > max32 {
+	if !upTo(n, max32) {
 		return nil
 	}
 	var out []byte
@@ -130,4 +130,21 @@ func allThere(b []byte, at int, n int) bool {
 // in the spare room of the argument.
 func copyBytes(b []byte) []byte {
 	return append([]byte(nil), b...)
+}
+
+// appendCounted writes behind b in b's own room, so b must be the caller's alone.
+func appendCounted(b []byte, text []byte) []byte {
+	return append(append(b, byte(len(text))), text...)
+}
+
+func countedGet(b []byte, at int) ([]byte, int) {
+	size, behind := Take(b, at, 1)
+	if behind < 0 {
+		return nil, -1
+	}
+	return Take(b, behind, int(size[0]))
+}
+
+func upTo(n int, most int) bool {
+	return n >= 0 && n <= most
 }
