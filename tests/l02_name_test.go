@@ -615,6 +615,8 @@ func TestNameGetOfLongMessages(t *testing.T) {
 	expectNoName(t, make([]byte, 100000), 0)
 }
 
+var labelForm = regexp.MustCompile(`\A[a-z0-9-]+\z`)
+
 // readName says again, by calling itself for what follows, what NameGet does; false where there is no name.
 func readName(msg []byte, at int, hops int) ([]string, int, bool) {
 	if at < 0 || at >= len(msg) || len(msg) > 512 || hops > 8 {
@@ -636,7 +638,7 @@ func readName(msg []byte, at int, hops int) ([]string, int, bool) {
 	}
 	label := string(smallLetters(msg[at+1 : at+1+first]))
 	l, end, ok := readName(msg, at+1+first, hops)
-	if !ok || len(l) >= 6 || !regexp.MustCompile(`\A[a-z0-9-]+\z`).MatchString(label) {
+	if !ok || len(l) >= 6 || !labelForm.MatchString(label) {
 		return nil, 0, false
 	}
 	return append([]string{label}, l...), end, true
