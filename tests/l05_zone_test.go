@@ -779,7 +779,8 @@ func hasIn(z impl.Zone, n impl.Name) bool {
 	return slices.ContainsFunc(z.Rrs, func(r impl.Rr) bool { return isUnder(r.Name, n) })
 }
 
-func addedTo(z impl.Zone, r impl.Rr) (impl.Zone, bool) {
+// with is a zone with a record, whether that may be or not.
+func with(z impl.Zone, r impl.Rr) impl.Zone {
 	out := impl.Zone{Origin: z.Origin}
 	for _, x := range z.Rrs {
 		if wordsOfName(x.Name) == wordsOfName(r.Name) && x.Type == r.Type {
@@ -790,6 +791,11 @@ func addedTo(z impl.Zone, r impl.Rr) (impl.Zone, bool) {
 		}
 	}
 	out.Rrs = sorted(append(out.Rrs, r))
+	return out
+}
+
+func addedTo(z impl.Zone, r impl.Rr) (impl.Zone, bool) {
+	out := with(z, r)
 	if !mayBe(out) {
 		return z, false
 	}
