@@ -132,6 +132,15 @@ func copyBytes(b []byte) []byte {
 	return append([]byte(nil), b...)
 }
 
+// copyAll is told how one is copied, since what lists hold may have lists, too.
+func copyAll[T any](l []T, one func(T) T) []T {
+	var out []T
+	for _, x := range l {
+		out = append(out, one(x))
+	}
+	return out
+}
+
 // appendCounted writes behind b in b's own room, so b must be the caller's alone.
 func appendCounted(b []byte, text []byte) []byte {
 	return append(append(b, byte(len(text))), text...)
