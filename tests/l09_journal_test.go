@@ -1378,22 +1378,27 @@ func manyJournalArgs() []journalArgs {
 	return out
 }
 
+// checkCall holds a call to what all are: its answer is new memory and the same each time, whatever room is spare; nothing is written into an argument.
+func checkCall[A interface{ told() string }](t *testing.T, call string, run func(a A) (any, string), plain, a A) {
+	t.Helper()
+	before := wholeOf(reflect.ValueOf(a))
+	answer, told := run(a)
+	checkSpans(t, call, answer, a)
+	if wholeOf(reflect.ValueOf(a)) != before {
+		t.Fatalf("%s of %s wrote into an argument", call, plain.told())
+	}
+	if _, again := run(a); again != told {
+		t.Fatalf("%s of %s answers otherwise the second time", call, plain.told())
+	}
+	if _, bare := run(plain); bare != told {
+		t.Fatalf("%s of %s hangs on spare room", call, plain.told())
+	}
+}
+
 func TestJournalAnswersAreNewMemory(t *testing.T) {
 	for call, run := range journalCalls() {
 		for _, plain := range manyJournalArgs() {
-			a := plain.roomy()
-			before := wholeOf(reflect.ValueOf(a))
-			answer, told := run(a)
-			checkSpans(t, call, answer, a)
-			if wholeOf(reflect.ValueOf(a)) != before {
-				t.Fatalf("%s of %s wrote into an argument", call, plain.told())
-			}
-			if _, again := run(a); again != told {
-				t.Fatalf("%s of %s answers otherwise the second time", call, plain.told())
-			}
-			if _, bare := run(plain); bare != told {
-				t.Fatalf("%s of %s hangs on spare room", call, plain.told())
-			}
+			checkCall(t, call, run, plain, plain.roomy())
 		}
 	}
 }
@@ -1413,12 +1418,7 @@ func TestJournalsBySharedMemory(t *testing.T) {
 		for _, x := range []impl.Txn{bind, up, {Kind: 2, Ip: subnet + 3, Client: text}} {
 			for call, run := range journalCalls() {
 				a := journalArgs{J: j, X: x, Keep: 1, B: bytesOfTxn(x)}
-				before := wholeOf(reflect.ValueOf(a))
-				answer, _ := run(a)
-				checkSpans(t, call, answer, a)
-				if wholeOf(reflect.ValueOf(a)) != before {
-					t.Errorf("%s wrote into its arguments", call)
-				}
+				checkCall(t, call, run, a, a)
 			}
 		}
 	}
